@@ -692,6 +692,7 @@ func (w *walk) command() impl.Cmd {
 }
 
 func TestWalksGoAsTheModelTells(t *testing.T) {
+	t.Parallel()
 	codes := map[[2]int]int{}
 	for seed := range int64(6) {
 		w := newWalk(seed)

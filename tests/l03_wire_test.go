@@ -467,6 +467,7 @@ func mustReadLikeModel(t *testing.T, b []byte) bool {
 }
 
 func TestBytesReadAsAMessageAreJustItsBytes(t *testing.T) {
+	t.Parallel()
 	read := 0
 	look := func(b []byte) {
 		if mustReadLikeModel(t, b) {
