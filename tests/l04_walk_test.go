@@ -93,7 +93,7 @@ func TestAllSmallServersThatFollow(t *testing.T) {
 	}
 }
 
-// Each small server that leads hears each small message.
+// Each small server that leads of three hears small messages: all acks, and of the other kinds those that one of the others sends, with one item or Commit at most.
 func TestAllSmallServersThatLead(t *testing.T) {
 	t.Parallel()
 	heard := 0
