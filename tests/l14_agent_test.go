@@ -766,28 +766,32 @@ func TestPlansOverRowsThatAreHeld(t *testing.T) {
 	mustBe(t, "tombs", tombTexts(done), "svc/na/old@51")
 }
 
-// What is planned goes as lines and comes back, and is done by a cluster's servers as by one state.
-func TestPlansByLinesAndServers(t *testing.T) {
-	l := agentOf("na", "api a1", "db", "web a2")
-	s := one()
-	for i, o := range []impl.Op{op(impl.OpSet, "svc/na/db", "down", 0), op(impl.OpSet, "svc/na/old", "x", 0), op(impl.OpSet, "svc/nb/web", "x", 0)} {
-		s = s.calls(0, 0, o).hears(2)
-		if r := mustRun(t, s, false); len(r.Facts) != i+2 {
-			t.Fatalf("%d facts", len(r.Facts))
-		}
-	}
-	state, _ := impl.Follow(mustRun(t, s, false).Facts)
-	plan, _ := impl.Plan(l, state)
-	mustBe(t, "the plan", opTexts(plan), "del svc/na/old set svc/na/api=warning set svc/na/db=passing set svc/na/web=critical")
-	for _, o := range plan {
+// mustCallByLines has client 0 ask for operations, one behind the other, as their lines read; each becomes a fact.
+func mustCallByLines(t *testing.T, s scene, ops ...impl.Op) scene {
+	t.Helper()
+	facts := len(mustRun(t, s, false).Facts)
+	for i, o := range ops {
 		line, _ := impl.OpText(o)
 		read, code, _ := impl.OpRead(line)
 		if code != impl.LnWell || !same(read, o) {
 			t.Fatalf("%q is read as %v, %d", line, read, code)
 		}
 		s = s.calls(0, 0, read).hears(2)
+		if r := mustRun(t, s, false); len(r.Facts) != facts+i+1 {
+			t.Fatalf("%d facts behind %q", len(r.Facts), line)
+		}
 	}
-	r := mustRun(t, s, true)
+	return s
+}
+
+// What is planned goes as lines and comes back, and is done by a cluster's servers as by one state.
+func TestPlansByLinesAndServers(t *testing.T) {
+	l := agentOf("na", "api a1", "db", "web a2")
+	s := mustCallByLines(t, one(), op(impl.OpSet, "svc/na/db", "down", 0), op(impl.OpSet, "svc/na/old", "x", 0), op(impl.OpSet, "svc/nb/web", "x", 0))
+	state, _ := impl.Follow(mustRun(t, s, false).Facts)
+	plan, _ := impl.Plan(l, state)
+	mustBe(t, "the plan", opTexts(plan), "del svc/na/old set svc/na/api=warning set svc/na/db=passing set svc/na/web=critical")
+	r := mustRun(t, mustCallByLines(t, s, plan...), true)
 	state, _ = impl.Follow(r.Facts)
 	for _, has := range append(r.States, state) {
 		if !impl.Synced(l, has) {
